@@ -1,10 +1,8 @@
 package strtab
 
 import (
-	"bytes"
-	"slices"
-
 	"hindsight/api"
+	"hindsight/chunk"
 	"hindsight/wire"
 )
 
@@ -13,7 +11,7 @@ func (t *Table) Encode(limit int) ([][]byte, api.Errno) {
 	if t == nil {
 		return nil, api.ErrNil
 	}
-	if !limitMayBe(limit) {
+	if !chunk.LimitMayBe(limit) {
 		return nil, api.ErrArg
 	}
 	return t.bodies(limit), api.OK
@@ -21,7 +19,7 @@ func (t *Table) Encode(limit int) ([][]byte, api.Errno) {
 
 // Decode reads them back.
 func Decode(bodies [][]byte, limit int) (*Table, api.Errno) {
-	if !limitMayBe(limit) {
+	if !chunk.LimitMayBe(limit) {
 		return nil, api.ErrArg
 	}
 	t := New()
@@ -30,61 +28,26 @@ func Decode(bodies [][]byte, limit int) (*Table, api.Errno) {
 			return nil, fault
 		}
 	}
-	if !slices.EqualFunc(bodies, t.bodies(limit), bytes.Equal) {
+	if !chunk.Same(bodies, t.bodies(limit)) {
 		return nil, api.ErrChunk
 	}
 	return t, api.OK
 }
 
-func limitMayBe(limit int) bool {
-	return limit >= api.MinLimit && limit <= api.MaxLimit
-}
-
 // bodies writes all strings, for a limit that may be.
 func (t *Table) bodies(limit int) [][]byte {
-	var out [][]byte
-	for first := 0; first < len(t.texts); {
-		body, next := t.body(first, limit)
-		out = append(out, body)
-		first = next
-	}
-	return out
-}
-
-// body writes one body: it, and the number of the first string that has no room in it.
-func (t *Table) body(first, limit int) ([]byte, int) {
-	out := wire.Uvarint(uint64(first))
-	for k, s := range t.texts[first:] {
-		// The first one needs no room: else a string that is longer than the limit could not be written.
-		if k > 0 && len(out)+recordSize(s) > limit {
-			return out, first + k
-		}
-		out = append(out, wire.Uvarint(uint64(len(s)))...)
-		out = append(out, s...)
-	}
-	return out, len(t.texts)
-}
-
-func recordSize(s string) int {
-	return wire.Size(uint64(len(s))) + len(s)
+	return chunk.Write(0, len(t.texts), limit, func(id int) []byte {
+		s := t.texts[id]
+		return append(wire.Uvarint(uint64(len(s))), s...)
+	})
 }
 
 // read puts the strings of a body behind those of the bodies ahead of it. Where it answers a fault, the
 // table has those ahead of the fault already: its caller drops it.
 func (t *Table) read(body []byte) api.Errno {
-	first, at, fault := wire.ReadUvarint(body, 0)
-	if fault != api.OK {
-		return fault
-	}
-	if first != uint64(len(t.texts)) || at == len(body) {
-		return api.ErrForm
-	}
-	for at < len(body) {
-		if at, fault = t.readRecord(body, at); fault != api.OK {
-			return fault
-		}
-	}
-	return api.OK
+	return chunk.Read(body, len(t.texts), func(at int) (int, api.Errno) {
+		return t.readRecord(body, at)
+	})
 }
 
 // readRecord puts the string of one record into the table, and answers the place behind the record.

@@ -10,6 +10,7 @@ import (
 	"testing"
 
 	"hindsight/api"
+	"hindsight/samples"
 	"hindsight/strtab"
 	"hindsight/wire"
 )
@@ -179,7 +180,7 @@ func TestBeginningsCount(t *testing.T) {
 	for _, c := range []struct{ ahead, room int }{{127, 61}, {128, 60}, {16383, 60}, {16384, 59}} {
 		// Strings of two bytes have records of three; a long one behind them begins a body of its own.
 		long, short := strings.Repeat("x", c.room), strings.Repeat("x", c.room-1)
-		ahead := numbered(c.ahead)
+		ahead := samples.Numbered(c.ahead)
 		end := bodiesOf(ahead, 64)
 		bothWays(t, slices.Concat(ahead, []string{long, ""}), 64, append(slices.Clone(end), body(c.ahead, long, "")))
 		bothWays(t, slices.Concat(ahead, []string{long, "y"}), 64, append(slices.Clone(end), body(c.ahead, long), body(c.ahead+1, "y")))
@@ -189,7 +190,7 @@ func TestBeginningsCount(t *testing.T) {
 
 func TestGreatestLimit(t *testing.T) {
 	// 15 records of 65539 bytes and the body's beginning leave 65490 bytes, with a length of three.
-	list := append(longest(15), strings.Repeat("x", 65487))
+	list := append(samples.Longest(15), strings.Repeat("x", 65487))
 	whole := body(0, list...)
 	if len(whole) != api.MaxLimit {
 		t.Fatalf("the test's own body has %d bytes", len(whole))
@@ -225,11 +226,11 @@ func TestManyTables(t *testing.T) {
 }
 
 func TestFullTables(t *testing.T) {
-	many := numbered(api.MaxStrings)
+	many := samples.Numbered(api.MaxStrings)
 	for _, limit := range []int{64, 65, 66, 1000, api.MaxLimit} {
 		bothWays(t, many, limit, bodiesOf(many, limit))
 	}
-	much := append(longest(api.MaxText/api.MaxSite), "")
+	much := append(samples.Longest(api.MaxText/api.MaxSite), "")
 	for _, limit := range []int{64, 65539, 65540, 131079, 131080, api.MaxLimit} {
 		bothWays(t, much, limit, bodiesOf(much, limit))
 	}
@@ -312,7 +313,7 @@ func TestFirstFault(t *testing.T) {
 
 // TestPastFull: what comes behind the bodies of a table that takes no more.
 func TestPastFull(t *testing.T) {
-	many, much := numbered(api.MaxStrings), longest(api.MaxText/api.MaxSite)
+	many, much := samples.Numbered(api.MaxStrings), samples.Longest(api.MaxText/api.MaxSite)
 	tooLong := []byte{129, 128, 4}
 	for _, c := range []struct {
 		name string
@@ -339,20 +340,8 @@ func TestPastFull(t *testing.T) {
 	}
 }
 
-// manyErrors counts how often each error was answered, so that a test can tell that it saw them all.
-type manyErrors map[api.Errno]int
-
-func (m manyErrors) hold(t *testing.T, want ...api.Errno) {
-	t.Helper()
-	for _, e := range want {
-		if m[e] < 20 {
-			t.Errorf("the error %d was answered %d times alone", e, m[e])
-		}
-	}
-}
-
 // readAs holds Decode against the plain reading.
-func readAs(t *testing.T, seen manyErrors, bodies [][]byte, limit int) {
+func readAs(t *testing.T, seen samples.Seen, bodies [][]byte, limit int) {
 	t.Helper()
 	want, fault := readPlain(bodies, limit)
 	x, e := strtab.Decode(bodies, limit)
@@ -369,82 +358,45 @@ func readAs(t *testing.T, seen manyErrors, bodies [][]byte, limit int) {
 	}
 }
 
-// allBodies are the bodies of at most n of a few bytes.
-func allBodies(n int) [][]byte {
-	out := [][]byte{nil}
-	for from := 0; n > 0; n-- {
-		to := len(out)
-		for _, b := range out[from:to] {
-			for _, c := range []byte{0, 1, 2, 97, 128, 255} {
-				out = append(out, append(slices.Clone(b), c))
-			}
-		}
-		from = to
-	}
-	return out
-}
-
 func TestEverySmallBody(t *testing.T) {
-	seen := manyErrors{}
-	for _, b := range allBodies(5) {
+	seen := samples.Seen{}
+	for _, b := range samples.AllBodies(5, 0, 1, 2, 97, 128, 255) {
 		readAs(t, seen, [][]byte{b}, 64)
 	}
-	pairs := allBodies(3)
+	pairs := samples.AllBodies(3, 0, 1, 2, 97, 128, 255)
 	for _, b := range pairs {
 		for _, c := range pairs {
 			readAs(t, seen, [][]byte{b, c}, 64)
 		}
 	}
-	seen.hold(t, api.OK, api.ErrEnd, api.ErrLong, api.ErrTake, api.ErrTwice, api.ErrForm, api.ErrChunk)
+	if rare := seen.Rare(api.OK, api.ErrEnd, api.ErrLong, api.ErrTake, api.ErrTwice, api.ErrForm, api.ErrChunk); len(rare) > 0 {
+		t.Errorf("the errors %v were answered few times alone", rare)
+	}
 }
 
 // damage changes good bodies of fewer than 128 short strings in one of many ways.
 func damage(r *rand.Rand, bodies [][]byte) [][]byte {
-	k := r.Intn(len(bodies))
-	b := bodies[k]
-	at := r.Intn(len(b) + 1)
-	switch r.Intn(10) {
-	case 0:
-		bodies[k] = b[:at]
-	case 1:
-		bodies[k] = slices.Insert(b, at, byte(r.Intn(256)))
-	case 2:
-		bodies[k] = slices.Insert(b, at, bytes.Repeat([]byte{255}, r.Intn(11))...)
-	case 3:
-		bodies[k] = slices.Delete(b, at, min(len(b), at+r.Intn(3)))
-	case 4:
-		for k := range b[:min(at, 3)] {
-			b[k] += byte(r.Intn(3))
-		}
-	case 5: // the records from here on go into a body of their own, with a beginning that may be right
-		bodies[k] = b[:at]
-		bodies = slices.Insert(bodies, k+1, append(wire.Uvarint(uint64(r.Intn(20))), b[at:]...))
-	case 6: // two become one
-		if k+1 < len(bodies) && len(bodies[k+1]) > 0 {
-			bodies[k] = append(b, bodies[k+1][1:]...)
-			bodies = slices.Delete(bodies, k+1, k+2)
-		}
-	case 7:
-		bodies = slices.Insert(bodies, k, slices.Clone(b))
-	case 8:
-		bodies = slices.Delete(bodies, k, k+1)
-	case 9: // its first record comes again
-		first := b[1 : 2+b[1]]
-		k = r.Intn(len(bodies))
-		bodies[k] = slices.Concat(bodies[k], first)
+	if r.Intn(10) > 0 {
+		return samples.Damage(r.Intn, bodies)
 	}
+	// A body's first record comes again.
+	b := bodies[r.Intn(len(bodies))]
+	k := r.Intn(len(bodies))
+	bodies[k] = slices.Concat(bodies[k], b[1:2+b[1]])
 	return bodies
 }
 
 func TestDamagedBodies(t *testing.T) {
 	r := rand.New(rand.NewSource(43))
-	seen := manyErrors{}
+	seen := samples.Seen{}
 	for range 30000 {
 		list := unlike(1+r.Intn(20), func() int { return r.Intn(25) })
 		limit := 64 + r.Intn(4)
 		readAs(t, seen, damage(r, bodiesOf(list, limit)), limit+r.Intn(2))
 	}
-	seen.hold(t, api.OK, api.ErrEnd, api.ErrLong, api.ErrOver, api.ErrTake, api.ErrTwice, api.ErrLarge, api.ErrForm, api.ErrChunk)
+	if rare := seen.Rare(api.OK, api.ErrEnd, api.ErrLong, api.ErrOver, api.ErrTake, api.ErrTwice, api.ErrLarge, api.ErrForm, api.ErrChunk); len(rare) > 0 {
+		t.Errorf("the errors %v were answered few times alone", rare)
+	}
 }
 
 // TestOneRowOfBodies cuts the strings of a table in every way there is: one alone is read.

@@ -8,6 +8,7 @@ import (
 	"testing"
 
 	"hindsight/api"
+	"hindsight/samples"
 	"hindsight/strtab"
 )
 
@@ -68,24 +69,6 @@ func hold(t *testing.T, promise string, x *strtab.Table, want []string) {
 			t.Fatalf("%s: Text(%d) of %d strings = %.20q, %d", promise, id, len(want), got, e)
 		}
 	}
-}
-
-// numbered is a list of n unlike strings of two bytes each.
-func numbered(n int) []string {
-	list := make([]string, n)
-	for k := range list {
-		list[k] = string([]byte{byte(k >> 8), byte(k)})
-	}
-	return list
-}
-
-// longest is a list of n unlike strings of MaxSite bytes each.
-func longest(n int) []string {
-	list := make([]string, n)
-	for k := range list {
-		list[k] = strings.Repeat(string([]byte{byte(k)}), api.MaxSite)
-	}
-	return list
 }
 
 // TestExamples: those of the chapter that are about numbers of strings.
@@ -208,7 +191,7 @@ func TestLongStrings(t *testing.T) {
 }
 
 func TestManyStrings(t *testing.T) {
-	list := numbered(api.MaxStrings)
+	list := samples.Numbered(api.MaxStrings)
 	x := table(t, list[:api.MaxStrings-1]...)
 	taken(t, x, list[api.MaxStrings-1])
 	refused(t, x, "")
@@ -223,7 +206,7 @@ func TestManyStrings(t *testing.T) {
 }
 
 func TestMuchText(t *testing.T) {
-	list := longest(api.MaxText / api.MaxSite)
+	list := samples.Longest(api.MaxText / api.MaxSite)
 	last := len(list) - 1
 	x := table(t, list[:last]...)
 	taken(t, x, list[last][1:])

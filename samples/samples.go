@@ -1,0 +1,95 @@
+// Package samples makes what the tests of several layers ask their calls with. The program itself does
+// not use it.
+package samples
+
+import (
+	"bytes"
+	"slices"
+	"strings"
+
+	"hindsight/api"
+)
+
+// Numbered is a list of n unlike strings of two bytes each.
+func Numbered(n int) []string {
+	list := make([]string, n)
+	for k := range list {
+		list[k] = string([]byte{byte(k >> 8), byte(k)})
+	}
+	return list
+}
+
+// Longest is a list of n unlike strings of MaxSite bytes each.
+func Longest(n int) []string {
+	list := make([]string, n)
+	for k := range list {
+		list[k] = strings.Repeat(string([]byte{byte(k)}), api.MaxSite)
+	}
+	return list
+}
+
+// AllBodies are all bodies of at most n of a few bytes.
+func AllBodies(n int, of ...byte) [][]byte {
+	out := [][]byte{nil}
+	for from := 0; n > 0; n-- {
+		to := len(out)
+		for _, b := range out[from:to] {
+			for _, c := range of {
+				out = append(out, append(slices.Clone(b), c))
+			}
+		}
+		from = to
+	}
+	return out
+}
+
+// Damage are bodies, one or more, changed in one of nine ways; pick chooses a number from 0 on, below
+// another. The numbers with which the bodies begin have one byte each.
+func Damage(pick func(below int) int, bodies [][]byte) [][]byte {
+	bodies = slices.Clone(bodies)
+	k := pick(len(bodies))
+	b := slices.Clone(bodies[k])
+	at := pick(len(b) + 1)
+	switch pick(9) {
+	case 0:
+		bodies[k] = b[:at]
+	case 1:
+		bodies[k] = slices.Insert(b, at, byte(pick(256)))
+	case 2:
+		bodies[k] = slices.Insert(b, at, bytes.Repeat([]byte{255}, pick(11))...)
+	case 3:
+		bodies[k] = slices.Delete(b, at, min(len(b), at+pick(3)))
+	case 4:
+		if at < len(b) {
+			b[at] += byte(pick(3))
+		}
+		bodies[k] = b
+	case 5: // what lies from here on goes into a body of its own, with a beginning that may be right
+		bodies[k] = slices.Clone(b[:at])
+		bodies = slices.Insert(bodies, k+1, append([]byte{byte(pick(30))}, b[at:]...))
+	case 6: // two become one
+		if k+1 < len(bodies) {
+			bodies[k] = append(b, bodies[k+1][1:]...)
+			bodies = slices.Delete(bodies, k+1, k+2)
+		}
+	case 7:
+		bodies = slices.Insert(bodies, k, slices.Clone(b))
+	case 8:
+		bodies = slices.Delete(bodies, k, k+1)
+	}
+	return bodies
+}
+
+// Seen counts how often each error was answered, so that a test can tell that it saw them all.
+type Seen map[api.Errno]int
+
+// Rare are those of some errors that were answered fewer than 20 times.
+func (s Seen) Rare(of ...api.Errno) []api.Errno {
+	var rare []api.Errno
+	for _, e := range of {
+		if s[e] < 20 {
+			rare = append(rare, e)
+		}
+	}
+	return rare
+}
