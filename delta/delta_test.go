@@ -410,7 +410,7 @@ func TestGetParts(t *testing.T) {
 	}
 }
 
-// TestGetAllShort: all texts of one and of two bytes, and all of up to six of a few bytes.
+// TestGetAllShort: all texts of two bytes, and all of up to six of a few bytes.
 func TestGetAllShort(t *testing.T) {
 	for first := range 256 {
 		for second := range 256 {
