@@ -445,36 +445,12 @@ func TestPutAnything(t *testing.T) {
 
 func one[T any](pick *rand.Rand, of []T) T { return of[pick.Intn(len(of))] }
 
-// someRow is a row of n records with rising stamps, near each other in most of their fields.
-func someRow(pick *rand.Rand, n int) []api.Rec {
-	row := make([]api.Rec, n)
-	r := api.Rec{Stamp: -1}
-	for k := range row {
-		r.Stamp += 1 + pick.Intn(2)*pick.Intn(3)
-		r.Kind, r.Arg = 1+pick.Intn(22), 0
-		switch pick.Intn(6) {
-		case 0:
-			r.Obj = pick.Uint64()
-		case 1, 2:
-			r.Obj += uint64(pick.Intn(64)) - 32
-		}
-		if pick.Intn(2) == 0 {
-			r.Arg = pick.Uint64() >> pick.Intn(64)
-		}
-		if pick.Intn(3) == 0 {
-			r.Stack = pick.Intn(maxNodes + 1)
-		}
-		row[k] = r
-	}
-	return row
-}
-
 // TestRow: rows of records, each told against the one ahead of it, are read back record by record. The
 // bytes are so many that the test takes very long if a Get goes through all of them.
 func TestRow(t *testing.T) {
 	pick := rand.New(rand.NewSource(9))
 	for _, n := range []int{1, 2, 3, 100, 300000} {
-		row, b, s := someRow(pick, n), []byte(nil), api.State{}
+		row, b, s := samples.Row(pick.Intn, n), []byte(nil), api.State{}
 		for _, r := range row {
 			more, next, e := delta.Put(s, r)
 			if e != api.OK {

@@ -8,19 +8,13 @@ import (
 
 	"hindsight/api"
 	"hindsight/frame"
+	"hindsight/samples"
 )
 
 // roomy is a copy of b with spare room behind it, and the whole of the room.
 func roomy(b []byte) (list, room []byte) {
 	room = append(bytes.Clone(b), bytes.Repeat([]byte{77}, 40)...)
 	return room[:len(b)], room
-}
-
-// spoil writes over a list and over all the room behind it.
-func spoil(b []byte) {
-	for room, k := b[:cap(b)], 0; k < len(room); k++ {
-		room[k] = 99
-	}
 }
 
 // TestArgumentsStay makes every call with spare room behind its lists.
@@ -66,11 +60,11 @@ func TestEncodedIsNew(t *testing.T) {
 		handed := bytes.Clone(body)
 		one, other := encode(t, api.Frame{Kind: 1, Body: handed}), encode(t, api.Frame{Kind: 1, Body: handed})
 		joined := join(t, api.Frame{Kind: 1, Body: handed}, api.Frame{Kind: 1, Body: handed})
-		spoil(one)
+		samples.Spoil(one, 99)
 		if !bytes.Equal(handed, body) {
 			t.Errorf("P3.11: an encoded frame shares memory with its body")
 		}
-		spoil(handed)
+		samples.Spoil(handed, 99)
 		if !bytes.Equal(other, want) || !bytes.Equal(joined, slices.Concat(want, want)) {
 			t.Errorf("P3.11: encoded frames share memory with each other or with the body")
 		}
@@ -82,11 +76,11 @@ func TestDecodedIsNew(t *testing.T) {
 	b := encode(t, api.Frame{Kind: 1, Body: body})
 	one, _, _ := frame.Decode(b, 0)
 	other, _, _ := frame.Decode(b, 0)
-	spoil(one.Body)
+	samples.Spoil(one.Body, 99)
 	if again, _, e := frame.Decode(b, 0); e != api.OK || !bytes.Equal(again.Body, body) {
 		t.Errorf("P3.11: a decoded body is a piece of what was handed in")
 	}
-	spoil(b)
+	samples.Spoil(b, 99)
 	if !bytes.Equal(other.Body, body) {
 		t.Errorf("P3.11: a decoded body is seen to change")
 	}
@@ -109,7 +103,7 @@ func TestSplitBodiesAreNew(t *testing.T) {
 			if !slices.EqualFunc(fs[k:], want[k:], same) {
 				t.Fatalf("P3.11: a body of the frames from %d on shares memory with one ahead of it", k)
 			}
-			spoil(fs[k].Body)
+			samples.Spoil(fs[k].Body, 99)
 		}
 		if !bytes.Equal(b, kept) {
 			t.Errorf("P3.11: a body is a piece of what was handed in")
@@ -121,7 +115,7 @@ func TestSplitBodiesAreNew(t *testing.T) {
 	for k := range fs[:cap(fs)] {
 		fs[:cap(fs)][k] = api.Frame{}
 	}
-	spoil(b)
+	samples.Spoil(b, 99)
 	if !slices.EqualFunc(other, want, same) {
 		t.Errorf("P3.11: two answers share memory, or one with what was handed in")
 	}
@@ -131,8 +125,8 @@ func TestBodiesOfEndsAreNew(t *testing.T) {
 	h, f := api.Head{Limit: 64, Events: 300, Streams: 2}, api.Foot{Frames: 3, Sum: 258}
 	head, _ := frame.EncodeHead(h)
 	foot, _ := frame.EncodeFoot(f)
-	spoil(head)
-	spoil(foot)
+	samples.Spoil(head, 99)
+	samples.Spoil(foot, 99)
 	if again, e := frame.EncodeHead(h); e != api.OK || !bytes.Equal(again, []byte{1, 64, 172, 2, 2, 0, 0}) {
 		t.Errorf("P3.11: EncodeHead answers memory that was answered before: %v", again)
 	}

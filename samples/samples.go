@@ -80,6 +80,52 @@ func Damage(pick func(below int) int, bodies [][]byte) [][]byte {
 	return bodies
 }
 
+// Row is a row of n records with rising stamps, near each other in most of their fields; pick chooses a
+// number from 0 on, below another. (Of up to 300000 records every stamp may be.)
+func Row(pick func(below int) int, n int) []api.Rec {
+	row := make([]api.Rec, n)
+	r := api.Rec{Stamp: -1}
+	for k := range row {
+		r.Stamp += 1 + pick(2)*pick(3)
+		r.Kind, r.Arg = 1+pick(22), 0
+		switch pick(6) {
+		case 0:
+			r.Obj = number(pick)
+		case 1, 2:
+			r.Obj += uint64(pick(64)) - 32
+		}
+		if pick(2) == 0 {
+			r.Arg = number(pick) >> pick(64)
+		}
+		if pick(3) == 0 {
+			r.Stack = pick(api.MaxNodes + 1)
+		}
+		row[k] = r
+	}
+	return row
+}
+
+// number is any number of 64 bits.
+func number(pick func(below int) int) uint64 {
+	return uint64(pick(1<<32))<<32 | uint64(pick(1<<32))
+}
+
+// Roomy are copies of bodies with spare room behind each, and these copies with their room.
+func Roomy(bodies [][]byte) (list, whole [][]byte) {
+	for _, b := range bodies {
+		w := slices.Concat(b, bytes.Repeat([]byte{77}, 20))
+		list, whole = append(list, w[:len(b)]), append(whole, w)
+	}
+	return list, whole
+}
+
+// Spoil writes over a list and over all the room behind it.
+func Spoil[T any](list []T, with T) {
+	for room, k := list[:cap(list)], 0; k < len(room); k++ {
+		room[k] = with
+	}
+}
+
 // Seen counts how often each error was answered, so that a test can tell that it saw them all.
 type Seen map[api.Errno]int
 

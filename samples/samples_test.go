@@ -1,6 +1,7 @@
 package samples_test
 
 import (
+	"math/rand"
 	"slices"
 	"testing"
 
@@ -73,5 +74,37 @@ func TestDamage(t *testing.T) {
 		if !slices.EqualFunc(whole, [][]byte{{1, 2, 3}, {4, 5}}, slices.Equal) {
 			t.Errorf("the choices %v: what was handed in is %v", c.picks, whole)
 		}
+	}
+}
+
+// TestRow: tests lean on it that the records may be and that their stamps rise, also at the largest steps.
+func TestRow(t *testing.T) {
+	for name, pick := range map[string]func(int) int{
+		"anything":     rand.New(rand.NewSource(1)).Intn,
+		"the least":    func(int) int { return 0 },
+		"the greatest": func(below int) int { return below - 1 },
+	} {
+		row := samples.Row(pick, 300000)
+		last := -1
+		for _, r := range row {
+			if r.Stamp <= last || r.Stamp >= api.MaxEvents || r.Kind < 1 || r.Kind > 22 || r.Stack < 0 || r.Stack > api.MaxNodes {
+				t.Fatalf("%s: %v behind the stamp %d", name, r, last)
+			}
+			last = r.Stamp
+		}
+		if len(row) != 300000 {
+			t.Errorf("%s: %d records", name, len(row))
+		}
+	}
+}
+
+func TestRoomyAndSpoil(t *testing.T) {
+	list, whole := samples.Roomy([][]byte{{1, 2}, nil})
+	if len(list) != 2 || !slices.Equal(list[0], []byte{1, 2}) || len(list[1]) != 0 || len(whole[0]) != 22 || len(whole[1]) != 20 {
+		t.Fatalf("%v, %v", list, whole)
+	}
+	samples.Spoil(list[0], 99)
+	if slices.ContainsFunc(whole[0], func(b byte) bool { return b != 99 }) || slices.Contains(whole[1], 99) {
+		t.Errorf("the whole is %v", whole)
 	}
 }

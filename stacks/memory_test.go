@@ -1,7 +1,6 @@
 package stacks_test
 
 import (
-	"bytes"
 	"slices"
 	"testing"
 	"unsafe"
@@ -15,22 +14,6 @@ import (
 // three is a forest that goes into three bodies for the limit 64.
 func three() plain {
 	return plain{samples.Numbered(100), append(flat(65), step{65, 3}, step{66, 99})}
-}
-
-// spoil writes over a list and over all the room behind it.
-func spoil[T any](list []T, with T) {
-	for room, k := list[:cap(list)], 0; k < len(room); k++ {
-		room[k] = with
-	}
-}
-
-// roomy are copies of bodies with spare room behind each, and these copies with their room.
-func roomy(bodies [][]byte) (list, whole [][]byte) {
-	for _, b := range bodies {
-		w := slices.Concat(b, bytes.Repeat([]byte{77}, 20))
-		list, whole = append(list, w[:len(b)]), append(whole, w)
-	}
-	return list, whole
 }
 
 func TestInternLeavesItsStack(t *testing.T) {
@@ -64,8 +47,8 @@ func TestInternKeepsNoStack(t *testing.T) {
 	if id, e := f.Intern(stack); id != 4 || e != api.OK {
 		t.Fatalf("P5.2: Intern = %d, %d", id, e)
 	}
-	spoil(b, 'x')
-	spoil(stack, "h")
+	samples.Spoil(b, 'x')
+	samples.Spoil(stack, "h")
 	p.intern([]string{"f", "main.go:12", "g", "main.go:12"})
 	hold(t, "P5.8", f, x, *p)
 }
@@ -78,11 +61,11 @@ func TestStackIsNew(t *testing.T) {
 	for id := range len(p.nodes) + 1 {
 		one, _ := f.Stack(id)
 		other, _ := f.Stack(id)
-		spoil(one, "spoilt")
+		samples.Spoil(one, "spoilt")
 		if !slices.Equal(other, p.stack(id)) {
 			t.Errorf("P5.8: two answers of Stack(%d) share memory", id)
 		}
-		spoil(other, "spoilt")
+		samples.Spoil(other, "spoilt")
 	}
 	if !slices.Equal(kept, p.stack(67)) {
 		t.Errorf("P5.8: answers of Stack for unlike numbers share memory")
@@ -102,9 +85,9 @@ func TestEncodedIsNew(t *testing.T) {
 			if !sameBodies(one[k:], want[k:]) {
 				t.Errorf("P5.8: a body from %d on shares memory with one ahead of it", k)
 			}
-			spoil(one[k], 99)
+			samples.Spoil(one[k], 99)
 		}
-		spoil(one, nil)
+		samples.Spoil(one, nil)
 		if !sameBodies(other, want) {
 			t.Errorf("P5.8: two answers of Encode share memory")
 		}
@@ -120,8 +103,8 @@ func TestDecodeLeavesItsBodies(t *testing.T) {
 	x := table(t, p.texts...)
 	good := bodiesOf(p.nodes, 64)
 	for _, b := range [][][]byte{good, good[:2], good[1:], {{1, 0, 0, 1, 0}}, {{1, 0, 0}, {2, 0, 1}}, {{1, 0}}, {{1, 0, 100}}} {
-		lists, whole := roomy(b)
-		_, want := roomy(b)
+		lists, whole := samples.Roomy(b)
+		_, want := samples.Roomy(b)
 		outer := append(lists, []byte("behind"))
 		stacks.Decode(x, outer[:len(lists)], 64)
 		if !sameBodies(whole, want) {
@@ -137,15 +120,15 @@ func TestDecodeLeavesItsBodies(t *testing.T) {
 func TestDecodeKeepsNoBodies(t *testing.T) {
 	p := three()
 	x := table(t, p.texts...)
-	lists, whole := roomy(bodiesOf(p.nodes, 64))
+	lists, whole := samples.Roomy(bodiesOf(p.nodes, 64))
 	f, e := stacks.Decode(x, lists, 64)
 	if e != api.OK {
 		t.Fatalf("P5.5: Decode = %d", e)
 	}
 	for _, w := range whole {
-		spoil(w, 99)
+		samples.Spoil(w, 99)
 	}
-	spoil(lists, nil)
+	samples.Spoil(lists, nil)
 	bothWays(t, f, x, p, 64, bodiesOf(p.nodes, 64))
 }
 

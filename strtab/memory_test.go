@@ -1,13 +1,13 @@
 package strtab_test
 
 import (
-	"bytes"
 	"slices"
 	"strings"
 	"testing"
 	"unsafe"
 
 	"hindsight/api"
+	"hindsight/samples"
 	"hindsight/strtab"
 )
 
@@ -16,34 +16,14 @@ func three() []string {
 	return []string{"a", "", strings.Repeat("x", 60), "b", strings.Repeat("y", 62)}
 }
 
-// spoil writes over a list and over all the room behind it.
-func spoil(b []byte) {
-	for room, k := b[:cap(b)], 0; k < len(room); k++ {
-		room[k] = 99
-	}
-}
-
-// roomy are copies of bodies with spare room behind each, and all that room as one list.
-func roomy(bodies [][]byte) (list [][]byte, room []byte) {
-	for _, b := range bodies {
-		room = append(append(room, b...), bytes.Repeat([]byte{77}, 20)...)
-	}
-	at := 0
-	for _, b := range bodies {
-		list = append(list, room[at:at+len(b)])
-		at += len(b) + 20
-	}
-	return list, room
-}
-
 func TestDecodeLeavesItsBodies(t *testing.T) {
 	good := bodiesOf(three(), 64)
 	for _, bodies := range [][][]byte{good, good[:2], good[1:], {{0, 1, 97, 1, 97}}, {{0, 1, 97}, {1, 1, 98}}, {{0, 3, 97}}} {
-		lists, room := roomy(bodies)
-		want := bytes.Clone(room)
+		lists, whole := samples.Roomy(bodies)
+		_, want := samples.Roomy(bodies)
 		outer := append(slices.Clone(lists), []byte("behind"))
 		strtab.Decode(outer[:len(lists)], 64)
-		if !bytes.Equal(room, want) {
+		if !sameBodies(whole, want) {
 			t.Errorf("P4.8: Decode changed a body, or the room behind it")
 		}
 		if string(outer[len(lists)]) != "behind" || !sameBodies(outer[:len(lists)], bodies) {
@@ -53,13 +33,15 @@ func TestDecodeLeavesItsBodies(t *testing.T) {
 }
 
 func TestDecodeKeepsNoBodies(t *testing.T) {
-	lists, room := roomy(bodiesOf(three(), 64))
+	lists, whole := samples.Roomy(bodiesOf(three(), 64))
 	x, e := strtab.Decode(lists, 64)
 	if e != api.OK {
 		t.Fatalf("P4.5: Decode = %d", e)
 	}
-	spoil(room)
-	clear(lists)
+	for _, w := range whole {
+		samples.Spoil(w, 99)
+	}
+	samples.Spoil(lists, nil)
 	hold(t, "P4.8", x, three())
 	if b, e := x.Encode(64); e != api.OK || !sameBodies(b, bodiesOf(three(), 64)) {
 		t.Errorf("P4.8: Encode behind a change of the bodies that were read: %v, %d", b, e)
@@ -71,7 +53,7 @@ func TestInternKeepsNoString(t *testing.T) {
 	b := []byte("main.go:12")
 	x := strtab.New()
 	x.Intern(unsafe.String(&b[0], len(b)))
-	spoil(b)
+	samples.Spoil(b, 'x')
 	hold(t, "P4.8", x, []string{"main.go:12"})
 }
 
@@ -85,11 +67,9 @@ func TestEncodedIsNew(t *testing.T) {
 			if !sameBodies(one[k:], want[k:]) {
 				t.Errorf("P4.8: a body from %d on shares memory with one ahead of it", k)
 			}
-			spoil(one[k])
+			samples.Spoil(one[k], 99)
 		}
-		for room, k := one[:cap(one)], 0; k < len(room); k++ {
-			room[k] = nil
-		}
+		samples.Spoil(one, nil)
 		if !sameBodies(other, want) {
 			t.Errorf("P4.8: two answers share memory")
 		}

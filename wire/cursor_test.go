@@ -7,6 +7,7 @@ import (
 	"testing"
 
 	"hindsight/api"
+	"hindsight/samples"
 	"hindsight/wire"
 )
 
@@ -228,12 +229,12 @@ func TestCursorAnswersAreNew(t *testing.T) {
 	first := c.Bytes(2)
 	none := c.Bytes(0)
 	second := c.Bytes(2)
-	spoil(first)
-	spoil(none)
+	samples.Spoil(first, 99)
+	samples.Spoil(none, 99)
 	if !bytes.Equal(second, []byte{3, 4}) {
 		t.Errorf("P1.10: two answers share memory: %v", second)
 	}
-	spoil(second)
+	samples.Spoil(second, 99)
 	if l := c.Bytes(2); !bytes.Equal(l, []byte{5, 6}) {
 		t.Errorf("P1.10: an answer and the cursor share memory: %v", l)
 	}
@@ -246,7 +247,7 @@ func TestCursorAnswersAreNew(t *testing.T) {
 func TestCursorsOverOneList(t *testing.T) {
 	b := []byte{1, 2}
 	one, other := wire.New(b), wire.New(b)
-	spoil(one.Bytes(2))
+	samples.Spoil(one.Bytes(2), 99)
 	one.Byte()
 	expect(t, one, 2, 0, api.ErrEnd)
 	expect(t, other, 0, 2, api.OK)

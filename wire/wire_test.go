@@ -8,6 +8,7 @@ import (
 	"testing"
 
 	"hindsight/api"
+	"hindsight/samples"
 	"hindsight/wire"
 )
 
@@ -330,17 +331,10 @@ func TestAnswersAreNew(t *testing.T) {
 		} {
 			first, other := write(), write()
 			want := bytes.Clone(first)
-			spoil(first)
+			samples.Spoil(first, 99)
 			if !bytes.Equal(other, want) || !bytes.Equal(write(), want) {
 				t.Errorf("P0.5: answers of %s for %d share memory", name, x)
 			}
 		}
-	}
-}
-
-// spoil writes over a list and over its spare room.
-func spoil(b []byte) {
-	for k := range b[:cap(b)] {
-		b[:cap(b)][k] = 99
 	}
 }
