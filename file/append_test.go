@@ -8,6 +8,7 @@ import (
 
 	"hindsight/api"
 	"hindsight/file"
+	"hindsight/samples"
 )
 
 func TestRecutToItsOwnLimit(t *testing.T) {
@@ -60,7 +61,7 @@ func TestAppend(t *testing.T) {
 	for _, first := range traces {
 		for _, second := range traces {
 			for range 4 {
-				limit, other := someLimit(r), someLimit(r)
+				limit, other := samples.Limit(r.Intn), samples.Limit(r.Intn)
 				got, e := file.Append(record(t, first, limit), record(t, second, other))
 				if want := record(t, slices.Concat(first, second), limit); e != api.OK || !bytes.Equal(got, want) {
 					t.Errorf("P11.5: Append of files of %d and %d events, for the limits %d and %d: %d bytes, %d, want %d", len(first), len(second), limit, other, len(got), e, len(want))
@@ -116,7 +117,7 @@ func TestAppendThrice(t *testing.T) {
 		return got
 	}
 	for range 100 {
-		a, b, c := record(t, someTrace(r, 30), someLimit(r)), record(t, someTrace(r, 30), someLimit(r)), record(t, someTrace(r, 30), someLimit(r))
+		a, b, c := record(t, samples.Trace(r.Intn, 30), samples.Limit(r.Intn)), record(t, samples.Trace(r.Intn, 30), samples.Limit(r.Intn)), record(t, samples.Trace(r.Intn, 30), samples.Limit(r.Intn))
 		if !bytes.Equal(put(put(a, b), c), put(a, put(b, c))) {
 			t.Fatalf("P11.5: three files put together in two ways are not the same")
 		}

@@ -3,12 +3,11 @@ package file_test
 import (
 	"math/rand"
 	"slices"
-	"strings"
 
 	"hindsight/api"
 	"hindsight/chunk"
-	"hindsight/event"
 	"hindsight/frame"
+	"hindsight/samples"
 	"hindsight/stream"
 	"hindsight/wire"
 )
@@ -94,76 +93,8 @@ func (d *draft) frames() []api.Frame {
 	return append(fs, api.Frame{Kind: 5})
 }
 
-// someSite is a frame of a stack: mostly one of a few, seldom a long one.
-func someSite(pick func(below int) int) string {
-	switch pick(12) {
-	case 0:
-		return strings.Repeat("long", pick(60))
-	case 1:
-		return string([]byte{byte(pick(256)), byte(pick(256))})
-	}
-	return []string{"main", "work", "f", "", "\x00\xff", "main.go:7"}[pick(6)]
-}
-
-// someStack often has outer frames that others have, too.
-func someStack(pick func(below int) int) []string {
-	stack := []string{}
-	for range pick(4) * pick(3) {
-		stack = append(stack, someSite(pick))
-	}
-	switch pick(8) {
-	case 0:
-		return nil
-	case 1:
-		for len(stack) < api.MaxDepth {
-			stack = append(stack, someSite(pick))
-		}
-		return stack
-	}
-	return append(stack, "main")
-}
-
-// someEvent is a good event of one of so many goroutines, the last one of all among them.
-func someEvent(pick func(below int) int, goroutines int) api.Event {
-	for {
-		e := api.Event{G: pick(goroutines), Kind: 1 + pick(22), Stack: someStack(pick)}
-		if e.G == 2 {
-			e.G = maxG - 1
-		}
-		switch pick(4) {
-		case 0:
-			e.Obj = uint64(pick(1<<32))<<32 + uint64(pick(1<<32))
-		case 1, 2:
-			e.Obj = 1000 + 8*uint64(pick(9))
-		}
-		e.Arg = uint64(pick(1<<32)) >> pick(33)
-		if event.Check(e) == api.OK {
-			return e
-		}
-	}
-}
-
-// someTrace is a trace within bounds of at most so many events.
-func someTrace(r *rand.Rand, most int) []api.Event {
-	t := make([]api.Event, r.Intn(most+1))
-	goroutines := 1 + r.Intn(6)
-	for k := range t {
-		t[k] = someEvent(r.Intn, goroutines)
-	}
-	return t
-}
-
-func someLimit(r *rand.Rand) int {
-	return []int{minLimit, minLimit + r.Intn(3), minLimit + r.Intn(200), 1000 + r.Intn(5000), maxLimit}[r.Intn(5)]
-}
-
 // rich is a trace whose file, for the limit 64, has several bodies of each sort: of strings, of which some
 // are longer than the limit, of nodes, and of the records of each of four goroutines.
 func rich() []api.Event {
-	r := rand.New(rand.NewSource(111))
-	t := make([]api.Event, 90)
-	for k := range t {
-		t[k] = someEvent(r.Intn, 4)
-	}
-	return t
+	return samples.Events(rand.New(rand.NewSource(111)).Intn, 90, 4)
 }

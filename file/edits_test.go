@@ -30,21 +30,21 @@ func someDraftEdit(r *rand.Rand) func(d *draft) {
 
 func editTexts(r *rand.Rand, d *draft) {
 	if len(d.texts) == 0 {
-		d.texts = append(d.texts, someSite(r.Intn))
+		d.texts = append(d.texts, samples.Site(r.Intn))
 		return
 	}
 	k, j := r.Intn(len(d.texts)), r.Intn(len(d.texts))
 	switch r.Intn(5) {
 	case 0:
-		d.texts = append(d.texts, someSite(r.Intn)+"more")
+		d.texts = append(d.texts, samples.Site(r.Intn)+"more")
 	case 1:
-		d.texts = slices.Insert(d.texts, k, someSite(r.Intn))
+		d.texts = slices.Insert(d.texts, k, samples.Site(r.Intn))
 	case 2:
 		d.texts = slices.Delete(d.texts, k, k+1)
 	case 3:
 		d.texts[k], d.texts[j] = d.texts[j], d.texts[k]
 	case 4:
-		d.texts[k] = someSite(r.Intn)
+		d.texts[k] = samples.Site(r.Intn)
 	}
 }
 
@@ -191,7 +191,7 @@ func TestEdits(t *testing.T) {
 	seen := samples.Seen{}
 	other := record(t, rich()[:5], 100)
 	for range 25000 {
-		trace, limit := someTrace(r, 40), minLimit+r.Intn(2)*r.Intn(300)
+		trace, limit := samples.Trace(r.Intn, 40), minLimit+r.Intn(2)*r.Intn(300)
 		var with []fault
 		for range 1 + r.Intn(3) {
 			with = append(with, someFault(r))

@@ -7,6 +7,7 @@ import (
 	"hindsight/api"
 	"hindsight/crc"
 	"hindsight/frame"
+	"hindsight/samples"
 	"hindsight/stream"
 	"hindsight/wire"
 )
@@ -38,13 +39,13 @@ func faultyFile(t []api.Event, limit int, with ...fault) []byte {
 			fs = f.frames(fs)
 		}
 	}
-	fs = numbered(fs)
+	fs = samples.Placed(fs)
 	for _, f := range with {
 		if f.numbered != nil {
 			f.numbered(fs)
 		}
 	}
-	b := joined(fs)
+	b := samples.Joined(fs)
 	for _, f := range with {
 		if f.bytes != nil {
 			b = f.bytes(b)
@@ -192,7 +193,7 @@ func outerFaults() []fault {
 		{name: "a foot that tells no frames", step: 56, want: api.ErrTotal, numbered: foot(func(f *api.Foot) { f.Frames = 0 })},
 		{name: "a foot with another sum", step: 56, want: api.ErrTotal, numbered: foot(func(f *api.Foot) { f.Sum ^= 1 << 31 })},
 		{name: "a foot with the sum of the frames' bytes", step: 56, want: api.ErrTotal, numbered: func(fs []api.Frame) {
-			foot(func(f *api.Foot) { f.Sum = crc.Sum(joined(fs[:len(fs)-1])) })(fs)
+			foot(func(f *api.Foot) { f.Sum = crc.Sum(samples.Joined(fs[:len(fs)-1])) })(fs)
 		}},
 		{name: "a foot whose sum leaves the head out", step: 56, want: api.ErrTotal, numbered: func(fs []api.Frame) {
 			var all []byte

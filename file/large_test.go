@@ -37,13 +37,13 @@ func TestMostBytes(t *testing.T) {
 
 // TestManyFrames: frames without a body, as many as have room in MaxFile bytes.
 func TestManyFrames(t *testing.T) {
-	one := joined([]api.Frame{{Kind: 1}})
+	one := samples.Joined([]api.Frame{{Kind: 1}})
 	refused(t, "P11.2: many frames", bytes.Repeat(one, maxFile/len(one)), api.ErrPlace)
 
 	fs := slices.Repeat([]api.Frame{{Kind: 4}}, 300000)
 	fs[0].Kind, fs[0].Body = 1, []byte{1, 64, 0, 0, 0, 0}
 	fs[len(fs)-1].Kind = 5
-	refused(t, "P11.2: many frames in their places", sealed(fs), api.ErrForm)
+	refused(t, "P11.2: many frames in their places", samples.Sealed(fs), api.ErrForm)
 }
 
 // TestMostEvents: as many events as there may be are written and read back; one more is refused, also where
@@ -83,7 +83,7 @@ func TestTooManyRecords(t *testing.T) {
 		for _, edit := range edits {
 			fs = edit(fs)
 		}
-		return sealed(fs)
+		return samples.Sealed(fs)
 	}
 	fewer := head(func(h *api.Head) { h.Streams-- })
 	refused(t, "P11.2: too many records", made(), api.ErrLarge)

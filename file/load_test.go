@@ -5,6 +5,7 @@ import (
 	"testing"
 
 	"hindsight/api"
+	"hindsight/samples"
 )
 
 func TestLoadExamples(t *testing.T) {
@@ -20,11 +21,11 @@ func TestLoadExamples(t *testing.T) {
 
 	d := drafted([]api.Event{mark(0)}, 64)
 	fs := head(func(h *api.Head) { h.Events++ })(d.frames())
-	refused(t, "P11.2: an event more is told", sealed(fs), api.ErrTotal)
+	refused(t, "P11.2: an event more is told", samples.Sealed(fs), api.ErrTotal)
 
 	d = drafted([]api.Event{mark(0, "a")}, 64)
 	d.texts = append(d.texts, "b")
-	refused(t, "P11.2: a string that no stack has", sealed(d.frames()), api.ErrForm2)
+	refused(t, "P11.2: a string that no stack has", samples.Sealed(d.frames()), api.ErrForm2)
 }
 
 // TestNoFault: the way in which the test makes its files makes good ones, if no fault is put in.
@@ -82,7 +83,7 @@ func TestFaultsOfOneStep(t *testing.T) {
 		for _, edit := range x.edits {
 			fs = edit(fs)
 		}
-		refused(t, "P11.2: two faults of "+x.what, sealed(fs), x.want)
+		refused(t, "P11.2: two faults of "+x.what, samples.Sealed(fs), x.want)
 	}
 	d := drafted(rich(), 64)
 	d.each(func(g int, r *api.Rec) {
@@ -93,7 +94,7 @@ func TestFaultsOfOneStep(t *testing.T) {
 			r.Kind, r.Obj, r.Arg = api.Read, 1, 0
 		}
 	})
-	refused(t, "P11.2: two events that may not be", sealed(d.frames()), api.ErrObj)
+	refused(t, "P11.2: two events that may not be", samples.Sealed(d.frames()), api.ErrObj)
 }
 
 // TestFewFrames: files of at most three frames, of all kinds in all places, with all sums put right.
@@ -107,7 +108,7 @@ func TestFewFrames(t *testing.T) {
 	}
 	good := 0
 	try := func(fs ...api.Frame) {
-		b := sealed(fs)
+		b := samples.Sealed(fs)
 		want, e := plainLoad(b)
 		loads(t, "P11.2: a file of few frames", b, want, e)
 		if e == api.OK {

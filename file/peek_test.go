@@ -7,6 +7,7 @@ import (
 
 	"hindsight/api"
 	"hindsight/file"
+	"hindsight/samples"
 )
 
 // noHead holds what Peek answers of bytes that begin with no head.
@@ -78,7 +79,7 @@ func TestPeekFaults(t *testing.T) {
 	for _, body := range [][]byte{good, bad} { // where the frame is none of a head, its body is not looked at
 		for _, f := range []api.Frame{{Kind: 2}, {Kind: 4}, {Kind: 5}, {Kind: 255}, {Kind: 1, Stream: 1}, {Kind: 1, Stream: 65535}, {Kind: 1, Ord: 1}, {Kind: 1, Ord: 1<<32 - 1}, {Kind: 2, Stream: 1, Ord: 1}} {
 			f.Body = body
-			noHead(t, "a frame that is no head", joined([]api.Frame{f}), api.ErrHead)
+			noHead(t, "a frame that is no head", samples.Joined([]api.Frame{f}), api.ErrHead)
 		}
 	}
 	for _, x := range []struct {
@@ -93,9 +94,9 @@ func TestPeekFaults(t *testing.T) {
 		{[]byte{1, 64, 0, 0, 0, 0, 0}, api.ErrBody},
 		{[]byte{1, 192, 0, 0, 0, 0, 0}, api.ErrLong},
 	} {
-		noHead(t, "a head that may not be", joined([]api.Frame{{Kind: 1, Body: x.body}}), x.fault)
+		noHead(t, "a head that may not be", samples.Joined([]api.Frame{{Kind: 1, Body: x.body}}), x.fault)
 	}
-	b := joined([]api.Frame{{Kind: 1, Body: good}})
+	b := samples.Joined([]api.Frame{{Kind: 1, Body: good}})
 	for k := range 8 * len(b) {
 		b[k/8] ^= 1 << (k % 8)
 		peeks(t, b)
@@ -112,7 +113,7 @@ func TestPeekTellsWhatIsTold(t *testing.T) {
 		peeks(t, faultyFile(rich(), 64, f))
 	}
 	fs := head(func(h *api.Head) { h.Events, h.Strings = 77, 5 })(drafted([]api.Event{mark(0)}, 64).frames())
-	if h, e := file.Peek(sealed(fs)); h != (api.Head{Limit: 64, Events: 77, Streams: 1, Strings: 5}) || e != api.OK {
+	if h, e := file.Peek(samples.Sealed(fs)); h != (api.Head{Limit: 64, Events: 77, Streams: 1, Strings: 5}) || e != api.OK {
 		t.Errorf("P11.3: Peek = %v, %d", h, e)
 	}
 }

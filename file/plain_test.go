@@ -14,6 +14,7 @@ import (
 	"hindsight/file"
 	"hindsight/frame"
 	"hindsight/merge"
+	"hindsight/samples"
 	"hindsight/stacks"
 	"hindsight/stream"
 	"hindsight/strtab"
@@ -113,7 +114,7 @@ func plainFile(t []api.Event, limit int) []byte {
 			fs = append(fs, api.Frame{Kind: 4, Stream: g, Body: body})
 		}
 	}
-	return sealed(append(fs, api.Frame{Kind: 5}))
+	return samples.Sealed(append(fs, api.Frame{Kind: 5}))
 }
 
 // quoted are frames in one text: unlike ones have unlike texts.
@@ -123,36 +124,6 @@ func quoted(frames []string) string {
 		b.WriteString(strconv.Itoa(len(f)) + ":" + f)
 	}
 	return b.String()
-}
-
-// numbered gives each frame its place as its Ord, and the last one, if it is one, the body of a foot that
-// tells what is so.
-func numbered(fs []api.Frame) []api.Frame {
-	fs = slices.Clone(fs)
-	var all []byte
-	for k := range fs {
-		fs[k].Ord = k
-		if k == len(fs)-1 && fs[k].Kind == api.FrameFoot {
-			fs[k].Body, _ = frame.EncodeFoot(api.Foot{Frames: k, Sum: crc.Sum(all)})
-		}
-		all = append(all, fs[k].Body...)
-	}
-	return fs
-}
-
-// sealed are the bytes of frames, numbered.
-func sealed(fs []api.Frame) []byte { return joined(numbered(fs)) }
-
-func joined(fs []api.Frame) []byte {
-	var all []byte
-	for _, f := range fs {
-		b, e := frame.Encode(f)
-		if e != api.OK {
-			panic("the test's own frame can't be written")
-		}
-		all = append(all, b...)
-	}
-	return all
 }
 
 // split are the frames of a file that is good.

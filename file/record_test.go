@@ -11,6 +11,7 @@ import (
 	"hindsight/crc"
 	"hindsight/file"
 	"hindsight/frame"
+	"hindsight/samples"
 )
 
 func TestNoEvents(t *testing.T) {
@@ -164,13 +165,13 @@ func TestSmallTraces(t *testing.T) {
 func TestSomeTraces(t *testing.T) {
 	r := rand.New(rand.NewSource(112))
 	for range 2000 {
-		trace, limit := someTrace(r, 120), someLimit(r)
+		trace, limit := samples.Trace(r.Intn, 120), samples.Limit(r.Intn)
 		b := record(t, trace, limit)
 		loads(t, "P11.6", b, trace, api.OK)
 		if head, e := file.Peek(b); e != api.OK || head.Limit != limit || head.Events != len(trace) {
 			t.Fatalf("P11.3: Peek of a file of %d events, for the limit %d = %v, %d", len(trace), limit, head, e)
 		}
-		if want := sealed(drafted(trace, limit).frames()); !bytes.Equal(b, want) {
+		if want := samples.Sealed(drafted(trace, limit).frames()); !bytes.Equal(b, want) {
 			t.Fatalf("P11.1: the file is not that of its draft")
 		}
 	}

@@ -6,6 +6,9 @@ import (
 	"testing"
 
 	"hindsight/api"
+	"hindsight/crc"
+	"hindsight/event"
+	"hindsight/frame"
 	"hindsight/samples"
 )
 
@@ -106,5 +109,47 @@ func TestRoomyAndSpoil(t *testing.T) {
 	samples.Spoil(list[0], 99)
 	if slices.ContainsFunc(whole[0], func(b byte) bool { return b != 99 }) || slices.Contains(whole[1], 99) {
 		t.Errorf("the whole is %v", whole)
+	}
+}
+
+// TestTraces: tests lean on it that traces are within bounds, and that there are goroutines, stacks and
+// limits of all sorts among them.
+func TestTraces(t *testing.T) {
+	r := rand.New(rand.NewSource(2))
+	gs, depths, limits := map[int]int{}, map[int]int{}, map[int]int{}
+	for range 200 {
+		trace := samples.Trace(r.Intn, 60)
+		if at, e := event.Bounds(trace); e != api.OK || len(trace) > 60 {
+			t.Fatalf("a trace of %d events: %d, %d", len(trace), at, e)
+		}
+		for _, e := range trace {
+			gs[e.G]++
+			depths[len(e.Stack)]++
+		}
+		limit := samples.Limit(r.Intn)
+		if limit < api.MinLimit || limit > api.MaxLimit {
+			t.Fatalf("the limit %d", limit)
+		}
+		limits[limit]++
+	}
+	if gs[0] == 0 || gs[1] == 0 || gs[2] != 0 || gs[api.MaxG-1] == 0 || depths[0] == 0 || depths[api.MaxDepth] == 0 || limits[api.MinLimit] == 0 || limits[api.MaxLimit] == 0 {
+		t.Errorf("goroutines %v, depths %v, limits %v", gs, depths, limits)
+	}
+	if at, e := event.Bounds(samples.Events(r.Intn, 10000, 9)); e != api.OK {
+		t.Errorf("a long trace: %d, %d", at, e)
+	}
+}
+
+func TestSealed(t *testing.T) {
+	fs := []api.Frame{{Kind: 1, Ord: 7, Body: []byte{1, 2}}, {Kind: 4, Stream: 3, Body: []byte{9}}, {Kind: 5, Body: []byte{4}}}
+	got, at, e := frame.Split(samples.Sealed(fs))
+	if e != api.OK || at != 22+21+25 || len(got) != 3 || got[0].Ord != 0 || got[1].Ord != 1 || got[2].Ord != 2 || got[1].Stream != 3 {
+		t.Fatalf("%v, %d, %d", got, at, e)
+	}
+	if foot, e := frame.DecodeFoot(got[2].Body); e != api.OK || foot != (api.Foot{Frames: 2, Sum: crc.Sum([]byte{1, 2, 9})}) {
+		t.Errorf("the foot %v, %d", foot, e)
+	}
+	if fs[0].Ord != 7 || fs[2].Body[0] != 4 {
+		t.Errorf("the frames that were handed in are %v", fs)
 	}
 }
