@@ -1,6 +1,7 @@
 // Package chunk puts numbered records into bodies of a size limit, and takes them off again: the strings
-// of chapter 4 and the nodes of chapter 5 are cut alike. (The records of chapter 8 have no numbers and are
-// told one against the other: they share the limits, and how rows of bodies are compared.)
+// of chapter 4 and the nodes of chapter 5 are cut alike, in files and in the recordings of chapter 14. (The
+// records of chapter 8 have no numbers and are told one against the other: they share the limits, and how
+// rows of bodies are compared.)
 package chunk
 
 import (
