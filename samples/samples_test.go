@@ -140,6 +140,31 @@ func TestTraces(t *testing.T) {
 	}
 }
 
+// TestMoves: tests lean on it that moves are good events, of just the kinds that were asked for, each of
+// them, and of no more goroutines.
+func TestMoves(t *testing.T) {
+	r := rand.New(rand.NewSource(3))
+	for _, kinds := range [][]int{samples.Kinds(), {api.Send, api.Ack}, {api.Join}} {
+		for goroutines := 2; goroutines < 6; goroutines++ {
+			seen := map[int]int{}
+			for range 2000 {
+				e := samples.Move(r.Intn, goroutines, kinds...)
+				seen[e.Kind]++
+				named := e.Kind == api.Fork || e.Kind == api.Join
+				if event.Check(e) != api.OK || e.G >= goroutines || named && int(e.Arg) >= goroutines || !slices.Contains(kinds, e.Kind) {
+					t.Fatalf("of %d goroutines, the kinds %v: %v", goroutines, kinds, e)
+				}
+			}
+			if len(seen) != len(kinds) {
+				t.Errorf("of the kinds %v came %v", kinds, seen)
+			}
+		}
+	}
+	if len(samples.Kinds()) != 22 {
+		t.Errorf("the kinds %v", samples.Kinds())
+	}
+}
+
 func TestSealed(t *testing.T) {
 	fs := []api.Frame{{Kind: 1, Ord: 7, Body: []byte{1, 2}}, {Kind: 4, Stream: 3, Body: []byte{9}}, {Kind: 5, Body: []byte{4}}}
 	got, at, e := frame.Split(samples.Sealed(fs))
