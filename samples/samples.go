@@ -29,13 +29,16 @@ func Longest(n int) []string {
 }
 
 // AllBodies are all bodies of at most n of a few bytes.
-func AllBodies(n int, of ...byte) [][]byte {
-	out := [][]byte{nil}
+func AllBodies(n int, of ...byte) [][]byte { return AllLists(n, of...) }
+
+// AllLists are all lists of at most n of a few things.
+func AllLists[T any](n int, of ...T) [][]T {
+	out := [][]T{nil}
 	for from := 0; n > 0; n-- {
 		to := len(out)
-		for _, b := range out[from:to] {
-			for _, c := range of {
-				out = append(out, append(slices.Clone(b), c))
+		for _, list := range out[from:to] {
+			for _, x := range of {
+				out = append(out, append(slices.Clone(list), x))
 			}
 		}
 		from = to
