@@ -1,6 +1,9 @@
 package samples
 
-import "hindsight/api"
+import (
+	"hindsight/api"
+	"hindsight/check"
+)
 
 // Kinds are all kinds of events.
 func Kinds() []int {
@@ -33,4 +36,31 @@ func Move(pick func(below int) int, goroutines int, kinds ...int) api.Event {
 		e.Obj, e.Arg = number(pick), number(pick)
 	}
 	return e
+}
+
+// Run is a run of at most n moves: those that can come, of many that were picked. It is shorter, if nearly
+// nothing can come any more.
+func Run(pick func(below int) int, n, goroutines int, kinds ...int) []api.Event {
+	c, run := check.New(), []api.Event(nil)
+	for tries := 50 * n; tries > 0 && len(run) < n; tries-- {
+		e := Move(pick, goroutines, kinds...)
+		if reason, fault := c.Add(e); reason == 0 && fault == api.OK {
+			run = append(run, e)
+		}
+	}
+	return run
+}
+
+// Focus are lists of kinds that go well together, some several times, as they are to be picked more often;
+// of each much happens between goroutines. All kinds, first.
+func Focus() [][]int {
+	return [][]int{
+		Kinds(),
+		{api.Acquire, api.Release, api.RAcquire, api.RRelease, api.Fork, api.Mark},
+		{api.Make, api.Send, api.Send, api.Ack, api.Ack, api.Recv, api.Recv, api.Fork},
+		{api.Make, api.Send, api.Send, api.Ack, api.Recv, api.Close, api.Fork, api.Join},
+		{api.Add, api.Wait, api.Once, api.Fork, api.Read, api.Write},
+		{api.Load, api.Store, api.Swap, api.Fork, api.Write},
+		{api.Fork, api.Join, api.Read, api.Release, api.Acquire, api.Store, api.Load},
+	}
 }

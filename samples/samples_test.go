@@ -1,11 +1,13 @@
 package samples_test
 
 import (
+	"maps"
 	"math/rand"
 	"slices"
 	"testing"
 
 	"hindsight/api"
+	"hindsight/check"
 	"hindsight/crc"
 	"hindsight/event"
 	"hindsight/frame"
@@ -176,5 +178,33 @@ func TestSealed(t *testing.T) {
 	}
 	if fs[0].Ord != 7 || fs[2].Body[0] != 4 {
 		t.Errorf("the frames that were handed in are %v", fs)
+	}
+}
+
+// TestRuns: tests lean on it that these are runs, of just the kinds that were asked for, and not a few
+// of them as long as they may be.
+func TestRuns(t *testing.T) {
+	r := rand.New(rand.NewSource(4))
+	for _, kinds := range samples.Focus() {
+		seen, full := map[int]int{}, 0
+		for range 300 {
+			run := samples.Run(r.Intn, 60, 2+r.Intn(4), kinds...)
+			if at, _, fault := check.Run(run); at != -1 || fault != api.OK || len(run) > 60 {
+				t.Fatalf("no run, or too long a one: %v", run)
+			}
+			if len(run) == 60 {
+				full++
+			}
+			for _, e := range run {
+				seen[e.Kind]++
+			}
+		}
+		unlike := slices.Compact(slices.Sorted(slices.Values(kinds)))
+		if !slices.Equal(slices.Sorted(maps.Keys(seen)), unlike) || full < 30 {
+			t.Errorf("of the kinds %v came %v, and %d runs were full", kinds, seen, full)
+		}
+	}
+	if run := samples.Run(r.Intn, 0, 2, api.Mark); len(run) != 0 {
+		t.Errorf("a run of no events: %v", run)
 	}
 }

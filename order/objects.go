@@ -1,0 +1,149 @@
+package order
+
+import (
+	"hindsight/api"
+	"hindsight/wire"
+)
+
+// object is what an event meets beside its own goroutine. The clock of an event grows by what the object
+// gives it; then the object keeps of this clock what is there for later events. (A view's clock is made
+// when it is asked for: most events leave nothing behind.)
+type object interface {
+	gives(e api.Event) *times
+	keeps(e api.Event, v view)
+}
+
+// Sorts of objects: those of one sort are told apart by their numbers.
+const (
+	noSort = iota
+	lockSort
+	channelSort
+	groupSort
+	onceSort
+	atomicSort
+)
+
+// name is what an object is known by.
+type name struct {
+	sort   int
+	number uint64
+}
+
+func sortOf(kind int) int {
+	switch kind {
+	case api.Acquire, api.Release, api.RAcquire, api.RRelease:
+		return lockSort
+	case api.Make, api.Send, api.Ack, api.Recv, api.Close:
+		return channelSort
+	case api.Add, api.Wait:
+		return groupSort
+	case api.Once:
+		return onceSort
+	case api.Load, api.Store, api.Swap:
+		return atomicSort
+	}
+	return noSort
+}
+
+func newObject(sort int) object {
+	switch sort {
+	case lockSort:
+		return &lock{}
+	case channelSort:
+		return &channel{}
+	case groupSort:
+		return &group{}
+	case onceSort:
+		return &once{}
+	}
+	return &atomic{}
+}
+
+// nothing is met by events that no other goroutine's events hang on.
+type nothing struct{}
+
+func (nothing) gives(api.Event) *times { return nil }
+
+func (nothing) keeps(api.Event, view) {}
+
+// begun is the goroutine that a Fork names: its view is that ahead of its first event.
+type begun struct{ view }
+
+func (b *begun) gives(api.Event) *times { return nil }
+
+func (b *begun) keeps(_ api.Event, v view) { b.known = v.clock() }
+
+// ended is the goroutine that a Join names: its view is that at its last event, or, if it has none, ahead
+// of the first.
+type ended struct{ *view }
+
+func (d *ended) gives(api.Event) *times { return d.clock() }
+
+func (d *ended) keeps(api.Event, view) {}
+
+// lock holds what it has for those who take it, to read or to write. A writer's Release knows of all
+// that was given back before; readers don't know of each other.
+type lock struct{ toRead, toWrite *times }
+
+func (l *lock) gives(e api.Event) *times {
+	switch e.Kind {
+	case api.Acquire:
+		return l.toWrite
+	case api.RAcquire:
+		return l.toRead
+	}
+	return nil
+}
+
+func (l *lock) keeps(e api.Event, v view) {
+	switch e.Kind {
+	case api.Release:
+		l.toRead = v.clock()
+		l.toWrite = l.toRead
+	case api.RRelease:
+		l.toWrite = join(l.toWrite, v.clock())
+	}
+}
+
+// group is a wait group: it gathers what all those know that lowered its counter.
+type group struct{ lowered *times }
+
+func (w *group) gives(e api.Event) *times {
+	if e.Kind == api.Wait {
+		return w.lowered
+	}
+	return nil
+}
+
+func (w *group) keeps(e api.Event, v view) {
+	if wire.Zag(e.Arg) < 0 { // that of a Wait is 0
+		w.lowered = join(w.lowered, v.clock())
+	}
+}
+
+// once holds what the one knew that ran it.
+type once struct{ ran *times }
+
+func (o *once) gives(api.Event) *times { return o.ran }
+
+func (o *once) keeps(e api.Event, v view) {
+	if e.Arg == 1 {
+		o.ran = v.clock()
+	}
+}
+
+// atomic gathers what all those know that stored something in it.
+type atomic struct{ stored *times }
+
+func (a *atomic) gives(e api.Event) *times {
+	if e.Kind == api.Store {
+		return nil
+	}
+	return a.stored
+}
+
+func (a *atomic) keeps(e api.Event, v view) {
+	if e.Kind != api.Load {
+		a.stored = join(a.stored, v.clock())
+	}
+}
