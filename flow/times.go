@@ -1,4 +1,4 @@
-package order
+package flow
 
 import (
 	"math/bits"
@@ -6,14 +6,17 @@ import (
 	"hindsight/api"
 )
 
-// times are the times of goroutines in a clock, as this layer keeps them: a tree over the bits of the
-// goroutines' numbers, which is never changed. So clocks share what they have in common: there may be a
-// million of them, with thousands of goroutines in each. nil: all times are 0.
-type times struct {
+// nowhere stands for the place of an event that is not there.
+const nowhere = -1
+
+// Times are the times of goroutines in a clock: a tree over the bits of the goroutines' numbers, which is
+// never changed. So clocks share what they have in common: there may be a million of them, with thousands
+// of goroutines in each. nil: all times are 0.
+type Times struct {
 	g         uint16 // the bits that all goroutines of the tree have in common
 	free      uint16 // the bits in which they may differ: the lowest ones
 	last      int32  // the place of the latest event that is counted
-	low, high *times // the goroutines without the highest of these bits, and those with it
+	low, high *Times // the goroutines without the highest of these bits, and those with it
 	leaf      *leaf  // where so few bits are left: the times themselves, and there are no halves
 }
 
@@ -26,19 +29,19 @@ const (
 )
 
 // single is the tree of one goroutine alone, whose latest event is that at a place.
-func single(g uint16, time, place int32) *times {
-	k := &times{g: g &^ leafBits, free: leafBits, last: place, leaf: &leaf{}}
+func single(g uint16, time, place int32) *Times {
+	k := &Times{g: g &^ leafBits, free: leafBits, last: place, leaf: &leaf{}}
 	k.leaf[g&leafBits] = time
 	return k
 }
 
 // spans tells whether a goroutine would stand in a tree, if it has a time.
-func (k *times) spans(g uint16) bool {
+func (k *Times) spans(g uint16) bool {
 	return (g^k.g)&^k.free == 0
 }
 
 // side is that half of a tree in which a goroutine would stand.
-func (k *times) side(g uint16) *times {
+func (k *Times) side(g uint16) *Times {
 	highest := k.free ^ k.free>>1
 	if g&highest == 0 {
 		return k.low
@@ -46,8 +49,8 @@ func (k *times) side(g uint16) *times {
 	return k.high
 }
 
-// get is the time of a goroutine.
-func (k *times) get(g uint16) int32 {
+// Get is the time of a goroutine.
+func (k *Times) Get(g uint16) int32 {
 	for k != nil && k.spans(g) {
 		if k.leaf != nil {
 			return k.leaf[g&leafBits]
@@ -57,24 +60,24 @@ func (k *times) get(g uint16) int32 {
 	return 0
 }
 
-// latest is the place of the latest event that is counted.
-func (k *times) latest() int {
+// Latest is the place of the latest event that is counted; -1, if none is.
+func (k *Times) Latest() int {
 	if k == nil {
 		return nowhere
 	}
 	return int(k.last)
 }
 
-// join is the tree with the greater one of each goroutine's two times. Where one of the two says it all,
+// Join is the tree with the greater one of each goroutine's two times. Where one of the two says it all,
 // it is answered itself, so that what is shared stays shared: it is not gone through again.
-func join(a, b *times) *times {
+func Join(a, b *Times) *Times {
 	switch {
 	case a == b || b == nil:
 		return a
 	case a == nil:
 		return b
 	case a.free < b.free:
-		return join(b, a)
+		return Join(b, a)
 	case !a.spans(b.g):
 		return over(a, b)
 	case a.leaf != nil:
@@ -83,17 +86,17 @@ func join(a, b *times) *times {
 	low, high := a.low, a.high
 	switch {
 	case a.free == b.free:
-		low, high = join(low, b.low), join(high, b.high)
+		low, high = Join(low, b.low), Join(high, b.high)
 	case a.side(b.g) == low:
-		low = join(low, b)
+		low = Join(low, b)
 	default:
-		high = join(high, b)
+		high = Join(high, b)
 	}
 	return joinHalves(a, b, low, high)
 }
 
 // joinLeaves joins two leaves of the same goroutines.
-func joinLeaves(a, b *times) *times {
+func joinLeaves(a, b *Times) *Times {
 	greater := *a.leaf
 	for k, time := range b.leaf {
 		greater[k] = max(greater[k], time)
@@ -105,12 +108,12 @@ func joinLeaves(a, b *times) *times {
 		return b
 	}
 	kept := greater
-	return &times{g: a.g, free: a.free, last: max(a.last, b.last), leaf: &kept}
+	return &Times{g: a.g, free: a.free, last: max(a.last, b.last), leaf: &kept}
 }
 
 // joinHalves is a with other halves; if b has these, it is b.
-func joinHalves(a, b, low, high *times) *times {
-	for _, k := range []*times{a, b} {
+func joinHalves(a, b, low, high *Times) *Times {
+	for _, k := range []*Times{a, b} {
 		if k.low == low && k.high == high {
 			return k
 		}
@@ -119,7 +122,7 @@ func joinHalves(a, b, low, high *times) *times {
 }
 
 // over is the tree of two that have no goroutine in common.
-func over(a, b *times) *times {
+func over(a, b *Times) *Times {
 	if a.g > b.g {
 		a, b = b, a
 	}
@@ -127,13 +130,18 @@ func over(a, b *times) *times {
 	return branch(a.g&^free, free, a, b)
 }
 
-func branch(g, free uint16, low, high *times) *times {
-	return &times{g: g, free: free, last: max(low.last, high.last), low: low, high: high}
+func branch(g, free uint16, low, high *Times) *Times {
+	return &Times{g: g, free: free, last: max(low.last, high.last), low: low, high: high}
+}
+
+// News are the times that are above those in another tree, by rising goroutines.
+func (k *Times) News(old *Times) []api.Tick {
+	return k.news(old, nil)
 }
 
 // news adds to a list the times that are above those in another tree, by rising goroutines. Of that tree
 // goes along what may have the same goroutines: where both share a part, nothing is new.
-func (k *times) news(old *times, list []api.Tick) []api.Tick {
+func (k *Times) news(old *Times, list []api.Tick) []api.Tick {
 	if k == nil || k == old {
 		return list
 	}
@@ -145,14 +153,14 @@ func (k *times) news(old *times, list []api.Tick) []api.Tick {
 	}
 	for low, time := range k.leaf {
 		g := k.g | uint16(low)
-		if time > old.get(g) {
+		if time > old.Get(g) {
 			list = append(list, api.Tick{G: int(g), T: int(time)})
 		}
 	}
 	return list
 }
 
-// ticks are all times, by rising goroutines.
-func (k *times) ticks() []api.Tick {
-	return k.news(nil, nil)
+// Ticks are all times, by rising goroutines.
+func (k *Times) Ticks() []api.Tick {
+	return k.News(nil)
 }

@@ -1,4 +1,4 @@
-package order
+package flow
 
 import (
 	"maps"
@@ -15,12 +15,12 @@ import (
 type table map[int]int
 
 // tree is a table as times. The place of an event is its time: so the latest is the one with the greatest.
-func (c table) tree(r *rand.Rand) *times {
+func (c table) tree(r *rand.Rand) *Times {
 	gs := slices.Sorted(maps.Keys(c))
 	r.Shuffle(len(gs), func(a, b int) { gs[a], gs[b] = gs[b], gs[a] })
-	var k *times
+	var k *Times
 	for _, g := range gs {
-		k = join(k, single(uint16(g), int32(c[g]), int32(c[g])))
+		k = Join(k, single(uint16(g), int32(c[g]), int32(c[g])))
 	}
 	return k
 }
@@ -61,15 +61,15 @@ func (c table) latest() int {
 }
 
 // like fails if a tree does not say what a table does.
-func like(t *testing.T, what string, k *times, want table) {
+func like(t *testing.T, what string, k *Times, want table) {
 	t.Helper()
-	if !slices.Equal(k.ticks(), want.ticks()) || k.latest() != want.latest() {
-		t.Fatalf("P18.2: %s: %v, the latest %d; want %v, %d", what, k.ticks(), k.latest(), want.ticks(), want.latest())
+	if !slices.Equal(k.Ticks(), want.ticks()) || k.Latest() != want.latest() {
+		t.Fatalf("P18.2: %s: %v, the latest %d; want %v, %d", what, k.Ticks(), k.Latest(), want.ticks(), want.latest())
 	}
 	for g := range want {
 		for _, near := range []int{g - 1, g, g + 1, g ^ 16, g ^ 1<<15} {
-			if near >= 0 && near < api.MaxG && int(k.get(uint16(near))) != want[near] {
-				t.Fatalf("P18.2: %s: the time of %d is %d, want %d", what, near, k.get(uint16(near)), want[near])
+			if near >= 0 && near < api.MaxG && int(k.Get(uint16(near))) != want[near] {
+				t.Fatalf("P18.2: %s: the time of %d is %d, want %d", what, near, k.Get(uint16(near)), want[near])
 			}
 		}
 	}
@@ -98,25 +98,25 @@ func holdsTwo(t *testing.T, r *rand.Rand, c, d table) {
 	t.Helper()
 	a, b := c.tree(r), d.tree(r)
 	like(t, "a clock", a, c)
-	both := join(a, b)
+	both := Join(a, b)
 	like(t, "two joined", both, c.joined(d))
 	like(t, "the first behind it", a, c)
 	like(t, "the second behind it", b, d)
 	for _, x := range []struct {
-		k, old *times
+		k, old *Times
 		want   table
 	}{{a, b, c.news(d)}, {b, a, d.news(c)}, {both, a, d.news(c)}, {both, b, c.news(d)}, {a, both, nil}, {b, both, nil}, {a, nil, c}, {nil, a, nil}} {
-		if got := x.k.news(x.old, nil); !slices.Equal(got, x.want.ticks()) {
-			t.Fatalf("P18.4: what %v has new against %v: %v", x.k.ticks(), x.old.ticks(), got)
+		if got := x.k.News(x.old); !slices.Equal(got, x.want.ticks()) {
+			t.Fatalf("P18.4: what %v has new against %v: %v", x.k.Ticks(), x.old.Ticks(), got)
 		}
 	}
 	// What says it all is answered itself: so clocks share their parts, and shared ones are quick to join.
-	for _, part := range []*times{a, both, nil} {
-		if join(both, part) != both || join(part, both) != both {
-			t.Fatalf("P18.2: %v joined with %v is made anew", both.ticks(), part.ticks())
+	for _, part := range []*Times{a, both, nil} {
+		if Join(both, part) != both || Join(part, both) != both {
+			t.Fatalf("P18.2: %v joined with %v is made anew", both.Ticks(), part.Ticks())
 		}
 	}
-	like(t, "the second once more", join(b, both), c.joined(d))
+	like(t, "the second once more", Join(b, both), c.joined(d))
 }
 
 func TestTwoTrees(t *testing.T) {
@@ -155,12 +155,12 @@ func TestShared(t *testing.T) {
 		full[g] = 1
 	}
 	k := full.tree(r)
-	had := map[*times]int{}
+	had := map[*Times]int{}
 	nodes(k, had)
 	for range 50 {
-		more := join(k, single(uint16(r.Intn(api.MaxG)), 2, 2))
+		more := Join(k, single(uint16(r.Intn(api.MaxG)), 2, 2))
 		fresh := 0
-		seen := map[*times]int{}
+		seen := map[*Times]int{}
 		nodes(more, seen)
 		for n := range seen {
 			if had[n] == 0 {
@@ -181,12 +181,12 @@ func TestSharedIsQuick(t *testing.T) {
 		full[g] = 1
 	}
 	k, apart := full.tree(r), full.tree(r)
-	near := join(k, single(7, 2, 2))
-	for name, ask := range map[string]func(a, b *times){
-		"news": func(a, b *times) { a.news(b, nil) },
-		"join": func(a, b *times) { join(a, b) },
+	near := Join(k, single(7, 2, 2))
+	for name, ask := range map[string]func(a, b *Times){
+		"news": func(a, b *Times) { a.News(b) },
+		"join": func(a, b *Times) { Join(a, b) },
 	} {
-		took := func(b *times) time.Duration { // at best: whatever else goes on meanwhile counts for nothing
+		took := func(b *Times) time.Duration { // at best: whatever else goes on meanwhile counts for nothing
 			best := time.Hour
 			for range 100 {
 				begun := time.Now()
@@ -201,7 +201,7 @@ func TestSharedIsQuick(t *testing.T) {
 	}
 }
 
-func nodes(k *times, seen map[*times]int) {
+func nodes(k *Times, seen map[*Times]int) {
 	if k != nil {
 		seen[k]++
 		nodes(k.low, seen)
@@ -226,8 +226,8 @@ func TestLearn(t *testing.T) {
 		} else if time > 1 {
 			given[g] = time - 1
 		}
-		v := view{known: known.tree(r), time: int32(time), place: 100, g: uint16(g)}
+		v := View{Known: known.tree(r), Time: int32(time), Place: 100, G: uint16(g)}
 		v.learn(given.tree(r))
-		like(t, "what is learnt", v.known, known.joined(given))
+		like(t, "what is learnt", v.Known, known.joined(given))
 	}
 }

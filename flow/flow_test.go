@@ -1,4 +1,4 @@
-package order
+package flow
 
 import (
 	"testing"
@@ -8,8 +8,8 @@ import (
 
 // TestKeepsNoMore: what no later event can ask for is not kept.
 func TestKeepsNoMore(t *testing.T) {
-	f := newFlow()
-	take := func(g, kind int, obj, arg uint64) { f.take(api.Event{G: g, Kind: kind, Obj: obj, Arg: arg}) }
+	f := New()
+	take := func(g, kind int, obj, arg uint64) { f.Take(api.Event{G: g, Kind: kind, Obj: obj, Arg: arg}) }
 	take(0, api.Make, 1, 0)
 	take(0, api.Make, 2, 3)
 	for g := 1; g <= 50; g++ {
@@ -36,5 +36,23 @@ func TestKeepsNoMore(t *testing.T) {
 	take(0, api.Recv, 2, 1)
 	if len(roomy.sent) != 1 || len(roomy.emptied) != 0 || roomy.closed == nil {
 		t.Errorf("the closed channel keeps %v", roomy)
+	}
+}
+
+// TestKnows: of the own goroutine all up to the event itself, of others what was learnt.
+func TestKnows(t *testing.T) {
+	f := New()
+	f.Take(api.Event{Kind: api.Fork, Arg: 1})
+	f.Take(api.Event{G: 1, Kind: api.Store})
+	f.Take(api.Event{G: 1, Kind: api.Mark})
+	v := f.Take(api.Event{Kind: api.Load})
+	for _, x := range []struct {
+		g     uint16
+		time  int32
+		knows bool
+	}{{0, 0, true}, {0, 1, true}, {0, 2, true}, {0, 3, false}, {1, 0, true}, {1, 1, true}, {1, 2, false}, {2, 0, true}, {2, 1, false}} {
+		if got := v.Knows(x.g, x.time); got != x.knows {
+			t.Errorf("P18.3: the event %d of %d is known: %t", x.time, x.g, got)
+		}
 	}
 }
