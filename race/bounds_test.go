@@ -2,40 +2,12 @@ package race_test
 
 import (
 	"slices"
-	"strings"
 	"testing"
 
 	"hindsight/api"
 	"hindsight/race"
 	"hindsight/samples"
 )
-
-// bad are events that may not be, each with its error.
-var bad = []struct {
-	e     api.Event
-	fault api.Errno
-}{
-	{api.Event{}, api.ErrKind},
-	{ev(-1, 23, 0, 0), api.ErrKind},
-	{ev(0, -1, 0, 0), api.ErrKind},
-	{ev(-1, api.Write, 8, 1), api.ErrG},
-	{ev(api.MaxG, api.Read, 8, 0), api.ErrG},
-	{ev(1<<32, api.Write, 8, 1), api.ErrG},
-	{ev(0, api.Fork, 1, 1), api.ErrObj},
-	{ev(0, api.Read, 1<<64-1, 2), api.ErrObj},
-	{ev(0, api.Write, 1<<64-63, 64), api.ErrObj},
-	{ev(0, api.Alloc, 1<<64-1, 2), api.ErrObj},
-	{ev(0, api.Read, 8, 0), api.ErrSize},
-	{ev(0, api.Write, 8, 0), api.ErrSize},
-	{ev(0, api.Write, 8, api.MaxSize+1), api.ErrSize},
-	{ev(0, api.Read, 8, 1<<64-1), api.ErrSize},
-	{ev(0, api.Alloc, 8, 0), api.ErrSize},
-	{ev(0, api.Free, 8, api.MaxLife+1), api.ErrSize},
-	{ev(0, api.Fork, 0, 0), api.ErrSize},
-	{ev(0, api.Join, 0, api.MaxG), api.ErrSize},
-	{api.Event{Kind: api.Write, Obj: 8, Arg: 1, Stack: make([]string, api.MaxDepth+1)}, api.ErrSite},
-	{api.Event{Kind: api.Mark, Stack: []string{strings.Repeat("x", api.MaxSite+1)}}, api.ErrSite},
-}
 
 // refused fails if All or First take a trace, or answer another place or error.
 func refused(t *testing.T, trace []api.Event, place int, want api.Errno) {
@@ -53,13 +25,13 @@ var racy = []api.Event{fork1, write(1, 8, 4), write(0, 8, 4)}
 
 // TestOutOfBounds: an error of an event goes ahead of what is no run, wherever that is, with its place.
 func TestOutOfBounds(t *testing.T) {
-	for _, b := range bad {
+	for _, b := range samples.Faults() {
 		for place := range 6 {
 			for _, other := range []api.Event{mark, write(0, 8, 4), ev(0, api.Release, 7, 0)} {
 				trace := append(slices.Clone(racy), other, other, other)
-				trace[place] = b.e
-				refused(t, trace, place, b.fault)
-				refused(t, append(trace, bad[0].e, bad[3].e), place, b.fault)
+				trace[place] = b.Event
+				refused(t, trace, place, b.Errno)
+				refused(t, append(trace, samples.Faults()[0].Event, samples.Faults()[3].Event), place, b.Errno)
 			}
 		}
 	}
@@ -68,38 +40,7 @@ func TestOutOfBounds(t *testing.T) {
 // TestNoRun: the first place at which it is none counts, for each reason that there is; a detector refuses
 // the event there, and is as it was.
 func TestNoRun(t *testing.T) {
-	made := []api.Event{ev(0, api.Make, 7, 0), ev(0, api.Make, 8, 1)}
-	sent := append(slices.Clone(made), ev(1, api.Send, 7, 0), ev(0, api.Send, 8, 0))
-	for _, wrong := range [][]api.Event{ // the last event is that which can't come
-		{ev(2, api.Write, 8, 4)},
-		{join1, ev(1, api.Write, 8, 4)},
-		append(slices.Clone(sent), ev(1, api.Write, 8, 4)),
-		{ev(0, api.Acquire, 7, 0), ev(0, api.Acquire, 7, 0)},
-		{ev(0, api.Release, 7, 0)},
-		{ev(0, api.Acquire, 7, 0), ev(0, api.RAcquire, 7, 0)},
-		{ev(0, api.RRelease, 7, 0)},
-		{fork1},
-		{ev(0, api.Join, 0, 2)},
-		{join1, join1},
-		{ev(0, api.Join, 0, 0)},
-		append(slices.Clone(sent), join1),
-		append(slices.Clone(made), ev(1, api.Make, 8, 1)),
-		{ev(0, api.Send, 7, 0)},
-		append(slices.Clone(made), ev(0, api.Close, 8, 0), ev(0, api.Send, 8, 0)),
-		append(slices.Clone(sent), ev(0, api.Send, 8, 0)),
-		append(slices.Clone(made), ev(0, api.Recv, 8, 1)),
-		append(slices.Clone(made), ev(0, api.Recv, 8, 0)),
-		append(slices.Clone(sent), ev(0, api.Close, 8, 0), ev(0, api.Recv, 8, 0)),
-		append(slices.Clone(sent), ev(0, api.Close, 7, 0)),
-		append(slices.Clone(made), ev(0, api.Ack, 7, 0)),
-		append(slices.Clone(sent), ev(1, api.Ack, 7, 0)),
-		{ev(0, api.Add, 7, 1)},
-		{ev(0, api.Add, 7, 2), ev(0, api.Wait, 7, 0)},
-		{ev(0, api.Once, 7, 1), ev(0, api.Once, 7, 1)},
-		{ev(0, api.Once, 7, 0)},
-		{ev(0, api.Alloc, 7, 2), ev(0, api.Alloc, 8, 1)},
-		{ev(0, api.Free, 8, 4)},
-	} {
+	for _, wrong := range samples.NoRuns() {
 		trace := slices.Concat(racy, wrong)
 		n := len(trace) - 1
 		holds(t, trace[:n])
@@ -109,8 +50,8 @@ func TestNoRun(t *testing.T) {
 		refused(t, append(slices.Clone(trace), api.Event{}), n+1, api.ErrKind)
 		unmoved(t, trace[:n], trace[n], api.ErrBad)
 	}
-	for _, b := range bad {
-		unmoved(t, racy, b.e, b.fault)
+	for _, b := range samples.Faults() {
+		unmoved(t, racy, b.Event, b.Errno)
 	}
 }
 
@@ -138,11 +79,11 @@ func unmoved(t *testing.T, run []api.Event, e api.Event, want api.Errno) {
 
 // TestErrorsFirst: of an event that may not be and can't come, the error of the event.
 func TestErrorsFirst(t *testing.T) {
-	for _, b := range bad {
-		if b.fault != api.ErrG {
-			b.e.G = 7 // it was not begun
+	for _, b := range samples.Faults() {
+		if b.Errno != api.ErrG {
+			b.Event.G = 7 // it was not begun
 		}
-		unmoved(t, racy, b.e, b.fault)
+		unmoved(t, racy, b.Event, b.Errno)
 	}
 	unmoved(t, racy, write(7, 8, 4), api.ErrBad)
 }

@@ -8,6 +8,7 @@ import (
 	"hindsight/check"
 	"hindsight/event"
 	"hindsight/flow"
+	"hindsight/lines"
 )
 
 // Detector looks at one event at a time.
@@ -41,17 +42,17 @@ func (d *Detector) Words() int {
 	if d == nil {
 		return 0
 	}
-	return d.search.memory.words
+	return d.search.memory.Words()
 }
 
 // search finds the races of a run, event by event.
 type search struct {
 	flow   *flow.Flow
-	memory memory
+	memory lines.Memory[past]
 }
 
 func newSearch() search {
-	return search{flow.New(), newMemory()}
+	return search{flow: flow.New()}
 }
 
 // take takes the next event of a run: the races of which it is the second, by rising first places.
@@ -59,12 +60,22 @@ func (s *search) take(e api.Event) []api.Race {
 	v := s.flow.Take(e)
 	switch e.Kind {
 	case api.Read, api.Write:
-		first, last, writes, _ := event.Access(e)
-		return races(s.memory.access(first, last, writes, v), v.Place)
+		return races(s.firsts(e, v), v.Place)
 	case api.Alloc, api.Free:
-		s.memory.forget(e.Obj, e.Obj+(e.Arg-1))
+		s.memory.Forget(e.Obj, e.Obj+(e.Arg-1))
 	}
 	return nil
+}
+
+// firsts takes an access, and answers, of each goroutine that has one that races with it, the latest one's
+// place.
+func (s *search) firsts(e api.Event, v flow.View) map[uint16]int32 {
+	var latest map[uint16]int32
+	first, last, writes, _ := event.Access(e)
+	for _, p := range s.memory.Touch(first, last) {
+		latest = p.take(v, writes).latest(latest)
+	}
+	return latest
 }
 
 // races are those of a second place with the first ones that goroutines have.

@@ -28,22 +28,7 @@ func mixes() [][]int {
 // someRun is a run of one of the mixes, its bytes somewhere in memory.
 func someRun(r *rand.Rand, n int) []api.Event {
 	mix := mixes()[r.Intn(len(mixes()))]
-	return moved(r, samples.Run(r.Intn, n, 2+r.Intn(7), mix...))
-}
-
-// moved lays the bytes of a run elsewhere, and makes rows of each: they lie in one line or in several, and
-// now and then at an end of memory.
-func moved(r *rand.Rand, run []api.Event) []api.Event {
-	size := []uint64{1, 1, 2, 7, 16}[r.Intn(5)]
-	top := 11 * size // above all bytes that moves name
-	base := []uint64{0, 60, 64 - top%64, 1 << 40, 1<<63 - 5, -top, -top - 64}[r.Intn(7)]
-	run = slices.Clone(run)
-	for k, e := range run {
-		if isAccess(e) || isLife(e) {
-			run[k].Obj, run[k].Arg = base+e.Obj*size, e.Arg*size
-		}
-	}
-	return run
+	return samples.Moved(r.Intn, samples.Run(r.Intn, n, 2+r.Intn(7), mix...))
 }
 
 // TestRandomRuns: what all calls answer, and that a test that meets no races does not pass.
@@ -220,7 +205,7 @@ func TestWithoutAtomics(t *testing.T) {
 	r := rand.New(rand.NewSource(197))
 	more := 0
 	for range 500 {
-		run := moved(r, samples.Run(r.Intn, 60, 2+r.Intn(5), append(mixes()[r.Intn(len(mixes()))], api.Load, api.Store, api.Swap)...))
+		run := samples.Moved(r.Intn, samples.Run(r.Intn, 60, 2+r.Intn(5), append(mixes()[r.Intn(len(mixes()))], api.Load, api.Store, api.Swap)...))
 		var less []api.Event
 		places := make([]int, len(run)) // those of the events that are left
 		for k, e := range run {

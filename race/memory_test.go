@@ -120,7 +120,7 @@ func TestKeepsNoFrames(t *testing.T) {
 // not.
 func TestRefusedChangesNothing(t *testing.T) {
 	r := rand.New(rand.NewSource(1901))
-	seen := samples.Seen{}
+	seen, bad := samples.Seen{}, samples.Faults()
 	for range 300 {
 		run := someRun(r, 40)
 		want, p := firsts(t, run), newPlain(t, run)
@@ -129,7 +129,7 @@ func TestRefusedChangesNothing(t *testing.T) {
 			for range 8 {
 				other := samples.Move(r.Intn, 9, samples.Kinds()...)
 				if r.Intn(3) == 0 {
-					other = bad[r.Intn(len(bad))].e
+					other = bad[r.Intn(len(bad))].Event
 				}
 				if _, _, fault := race.All(append(slices.Clone(run[:k]), other)); fault != api.OK {
 					seen[fault]++

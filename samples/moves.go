@@ -1,6 +1,8 @@
 package samples
 
 import (
+	"slices"
+
 	"hindsight/api"
 	"hindsight/check"
 )
@@ -49,6 +51,52 @@ func Run(pick func(below int) int, n, goroutines int, kinds ...int) []api.Event 
 		}
 	}
 	return run
+}
+
+// Moved lays the bytes of a run elsewhere, and makes rows of each: they lie in one line of 64 bytes or in
+// several, and now and then at an end of memory. It is to be a run of moves: these name few bytes.
+func Moved(pick func(below int) int, run []api.Event) []api.Event {
+	size := []uint64{1, 1, 2, 7, 16}[pick(5)]
+	top := 10 * size // right above all bytes that moves name
+	base := []uint64{0, 60, 64 - top%64, 1 << 40, 1<<63 - 5, -top, -top - 64}[pick(7)]
+	run = slices.Clone(run)
+	for k, e := range run {
+		switch e.Kind {
+		case api.Read, api.Write, api.Alloc, api.Free:
+			run[k].Obj, run[k].Arg = base+e.Obj*size, e.Arg*size
+		}
+	}
+	return run
+}
+
+// Walk goes over all runs of so many of some moves behind a beginning; and over shorter ones, behind which
+// none of them can come. It answers how many there were.
+func Walk(beginning []api.Event, depth int, moves []api.Event, visit func(run []api.Event)) int {
+	runs, gone := 0, false
+	for _, e := range moves {
+		more := append(slices.Clip(beginning), e)
+		if at, _, _ := check.Run(more); depth > 0 && at == -1 {
+			gone = true
+			runs += Walk(more, depth-1, moves, visit)
+		}
+	}
+	if !gone {
+		visit(beginning)
+		runs++
+	}
+	return runs
+}
+
+// Each are moves of so many goroutines, each with all of them.
+func Each(goroutines int, moves ...api.Event) []api.Event {
+	var list []api.Event
+	for g := range goroutines {
+		for _, e := range moves {
+			e.G = g
+			list = append(list, e)
+		}
+	}
+	return list
 }
 
 // Focus are lists of kinds that go well together, some several times, as they are to be picked more often;

@@ -13,10 +13,9 @@ type touch struct{ place, time int32 }
 // asked for: if the last one happens before an access, so do all ahead of it.
 type history struct{ reads, writes map[uint16]touch }
 
-// cell is some bytes of a line that were touched by the same accesses, and their history.
-type cell struct {
-	bytes uint64 // bit by bit: which of the line's bytes
-	all   history
+// past is what is kept of bytes that were touched by the same accesses.
+type past struct {
+	all history
 
 	// Who knows the last write of all knows what that knew. So such an access is held against the rest alone:
 	// what raced with that write, and the reads behind it. (Thousands of goroutines may have touched the bytes,
@@ -25,39 +24,37 @@ type cell struct {
 	rest   history
 }
 
-// cut leaves a cell these of its bytes; a cell with the others, of the same history, is answered.
-func (c *cell) cut(bytes uint64) *cell {
-	other := &cell{c.bytes &^ bytes, c.all.clone(), c.writer, c.rest.clone()}
-	c.bytes = bytes
-	return other
+// Clone is the past of bytes that are touched apart from the others from now on.
+func (p past) Clone() past {
+	return past{p.all.clone(), p.writer, p.rest.clone()}
 }
 
 // take takes an access that touches just these bytes, and answers those that race with it.
-func (c *cell) take(v flow.View, writes bool) history {
-	racing := c.against(v).racing(v, writes)
+func (p *past) take(v flow.View, writes bool) history {
+	racing := p.against(v).racing(v, writes)
 	x := touch{v.Place, v.Time}
 	if writes {
-		c.all.writes = with(c.all.writes, v.G, x)
-		c.writer, c.rest = v.G, racing
+		p.all.writes = with(p.all.writes, v.G, x)
+		p.writer, p.rest = v.G, racing
 		return racing
 	}
-	c.all.reads = with(c.all.reads, v.G, x)
-	if c.written() {
-		c.rest.reads = with(c.rest.reads, v.G, x)
+	p.all.reads = with(p.all.reads, v.G, x)
+	if p.written() {
+		p.rest.reads = with(p.rest.reads, v.G, x)
 	}
 	return racing
 }
 
-func (c *cell) written() bool {
-	return len(c.all.writes) > 0
+func (p *past) written() bool {
+	return len(p.all.writes) > 0
 }
 
 // against is what an access is to be held against.
-func (c *cell) against(v flow.View) history {
-	if c.written() && v.Knows(c.writer, c.all.writes[c.writer].time) {
-		return c.rest
+func (p *past) against(v flow.View) history {
+	if p.written() && v.Knows(p.writer, p.all.writes[p.writer].time) {
+		return p.rest
 	}
-	return c.all
+	return p.all
 }
 
 // racing are those of a history that race with an access on the same bytes.
