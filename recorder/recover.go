@@ -17,7 +17,7 @@ func Recover(b []byte) ([]api.Event, int, api.Errno) {
 	if len(b) > api.MaxTape {
 		return nil, 0, api.ErrLarge
 	}
-	r := reading{known: nothing()}
+	r := reading{known: ahead()}
 	taken := r.follow(b, r.keep)
 	return r.told, taken, api.OK
 }
